@@ -70,6 +70,7 @@ func checkSource(t *testing.T, name string, source []byte) {
 			t.Errorf("%s imports %s", name, i.Path.Value)
 		}
 	}
+	checkMaps(t, name, file)
 	for _, d := range file.Decls {
 		f, ok := d.(*ast.FuncDecl)
 		if !ok {
@@ -78,5 +79,32 @@ func checkSource(t *testing.T, name string, source []byte) {
 		if lines := set.Position(f.End()).Line - set.Position(f.Pos()).Line + 1; lines > longestFunction {
 			t.Errorf("%s: %s has %d lines", name, f.Name.Name, lines)
 		}
+	}
+}
+
+// checkMaps: no map has bools or texts as values, and none stands at package level.
+func checkMaps(t *testing.T, name string, file *ast.File) {
+	t.Helper()
+	ast.Inspect(file, func(n ast.Node) bool {
+		m, ok := n.(*ast.MapType)
+		if !ok {
+			return true
+		}
+		if v, ok := m.Value.(*ast.Ident); ok && (v.Name == "bool" || v.Name == "string") {
+			t.Errorf("%s has a map with values of type %s", name, v.Name)
+		}
+		return true
+	})
+	for _, d := range file.Decls {
+		g, ok := d.(*ast.GenDecl)
+		if !ok || g.Tok != token.VAR {
+			continue
+		}
+		ast.Inspect(g, func(n ast.Node) bool {
+			if _, ok := n.(*ast.MapType); ok {
+				t.Errorf("%s has a map at package level", name)
+			}
+			return true
+		})
 	}
 }
