@@ -115,9 +115,7 @@ func TrmText(t []TrmCell) string {
 	if tree == nil {
 		return ""
 	}
-	var text strings.Builder
-	tree.write(&text)
-	return text.String()
+	return tree.text()
 }
 
 // TrmRead reads a term.
@@ -228,6 +226,12 @@ func (tree *termTree) list() []TrmCell {
 		return nil
 	}
 	return t
+}
+
+func (tree *termTree) text() string {
+	var text strings.Builder
+	tree.write(&text)
+	return text.String()
 }
 
 func (tree *termTree) write(text *strings.Builder) {
