@@ -83,12 +83,7 @@ func TrmShift(t []TrmCell, n int) []TrmCell {
 	if tree == nil || n < 0 || n > TrmVars {
 		return nil
 	}
-	for node := range tree.nodes() {
-		if node.cell.Kind == TrmVar {
-			node.cell.N += n
-		}
-	}
-	return tree.list()
+	return tree.shifted(n).list()
 }
 
 // TrmCanon is a term with its variables numbered from 0 on, as they come first.
@@ -210,6 +205,28 @@ func (tree *termTree) tell(yield func(*termTree) bool) bool {
 	}
 	for _, arg := range tree.args {
 		if !arg.tell(yield) {
+			return false
+		}
+	}
+	return true
+}
+
+// shifted is a tree of its own with each variable so many on.
+func (tree *termTree) shifted(n int) *termTree {
+	other := &termTree{cell: tree.cell}
+	if tree.cell.Kind == TrmVar {
+		other.cell.N += n
+	}
+	for _, arg := range tree.args {
+		other.args = append(other.args, arg.shifted(n))
+	}
+	return other
+}
+
+// varsBelow says whether all variables of a tree are below a number.
+func (tree *termTree) varsBelow(n int) bool {
+	for node := range tree.nodes() {
+		if node.cell.Kind == TrmVar && node.cell.N >= n {
 			return false
 		}
 	}
