@@ -110,6 +110,9 @@ func harmful() []turn {
 		{"a choice with more bindings than the next one", func(s *state) { s.Choices[0].Binds = binds("X0=a", "X1=b") }},
 		{"a choice with more bindings than there are", func(s *state) { s.Choices[2].Binds = append(copyBinds(s.Binds), binds("X5=a")...) }},
 		{"a choice with the next one's bindings", func(s *state) { s.Choices[1].Binds = copyBinds(s.Binds) }},
+		{"a choice with more of the same bindings than the next one", func(s *state) {
+			s.Choices[1].Binds, s.Choices[1].Vars, s.Choices[2].Binds = copyBinds(s.Binds[:3]), 6, copyBinds(s.Binds[:2])
+		}},
 		{"a choice whose bindings are not ok", func(s *state) { s.Choices[2].Binds = binds("X0=X0") }},
 		{"a choice with more variables than the next one", func(s *state) { s.Choices[1].Vars = 8 }},
 		{"a choice with more variables than there are", func(s *state) { s.Choices[2].Vars = 13 }},
