@@ -360,6 +360,9 @@ func TestTurnedSolvingIsAsPlainlyTold(t *testing.T) {
 				continue
 			}
 			ok++
+			if got, then := impl.SlvStep(q.p, s), plainStep(q.p, s); !sameValue(got, then) {
+				t.Fatalf("%v: behind a step %v is\n%v, want\n%v", q, s, got, then)
+			}
 			fuel := r.IntN(12)
 			got, then := impl.SlvRun(q.p, s, fuel), plainRun(q.p, s, fuel)
 			if !sameValue(got, then) {

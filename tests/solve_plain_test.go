@@ -238,12 +238,12 @@ func plainTry(p prog, s state, call []cell, from int) state {
 	return state{Status: impl.SlvGoes, Goals: append(goals, s.Goals...), Binds: then, Vars: s.Vars + impl.PrgFree, Choices: s.Choices, Top: s.Top}
 }
 
-// plainRun does so many steps, the first in any case, each other one as long as it goes on.
+// plainRun does so many steps, each as long as it goes on.
 func plainRun(p prog, s state, fuel int) state {
 	if !plainSolvingOk(p, s) || fuel > impl.SlvFuel {
 		return state{}
 	}
-	for k := 0; k < fuel && (k == 0 || s.Status == impl.SlvGoes); k++ {
+	for k := 0; k < fuel && s.Status == impl.SlvGoes; k++ {
 		s = plainStep(p, s)
 	}
 	return s

@@ -129,21 +129,18 @@ func TestWhatHasEndedStays(t *testing.T) {
 	}
 }
 
-// TestManyStepsAreSomeAndThenTheOthers: promise 27.
+// TestManyStepsAreSomeAndThenTheOthers: promise 27. Also where an answer is between: it stays, by all steps as by some.
 func TestManyStepsAreSomeAndThenTheOthers(t *testing.T) {
 	between, whole := 0, 0
 	for k, q := range somePosed(400) {
 		for i, s := range statesOf(q, 12) {
-			if got, want := impl.SlvRun(q.p, s, 1), impl.SlvStep(q.p, s); !sameValue(got, want) {
-				t.Errorf("%v: of one step it is %v, want %v", q, got, want)
-			}
 			first, second := (k+i)%9, (k*3+i*5)%11
 			some := impl.SlvRun(q.p, s, first)
-			if first > 0 && some.Status == impl.SlvAnswer {
+			if some.Status == impl.SlvAnswer {
 				between++
-				continue
+			} else {
+				whole++
 			}
-			whole++
 			got, want := impl.SlvRun(q.p, some, second), impl.SlvRun(q.p, s, first+second)
 			if !sameValue(got, want) {
 				t.Errorf("%v: %d steps and %d are %v, want %v", q, first, second, got, want)
@@ -155,21 +152,79 @@ func TestManyStepsAreSomeAndThenTheOthers(t *testing.T) {
 	}
 }
 
+// TestOneOfManyStepsIsAStep: promise 27, of what goes on, and of what has ended.
+func TestOneOfManyStepsIsAStep(t *testing.T) {
+	for _, q := range somePosed(400) {
+		for _, s := range statesOf(q, 12) {
+			if s.Status == impl.SlvAnswer {
+				continue
+			}
+			if got, want := impl.SlvRun(q.p, s, 1), impl.SlvStep(q.p, s); !sameValue(got, want) {
+				t.Errorf("%v: of one step it is %v, want %v", q, got, want)
+			}
+		}
+	}
+}
+
+// checkAnswerStays: by so many steps none is done of an answer, but SlvStep goes back from it. It stops at the first that is otherwise: what is gone on with may be vast.
+func checkAnswerStays(t *testing.T, p prog, s state, fuels ...int) {
+	t.Helper()
+	for _, fuel := range fuels {
+		if got := impl.SlvRun(p, s, fuel); !sameValue(got, s) {
+			t.Fatalf("by %d steps the answer %v is %v", fuel, s, got)
+		}
+	}
+	if got := impl.SlvStep(p, s); got.Status == impl.SlvAnswer || !sameValue(got, plainStep(p, s)) {
+		t.Fatalf("behind a step the answer %v is %v", s, got)
+	}
+}
+
+// TestRunLeavesAnAnswer: with choices that are left, and without any.
+func TestRunLeavesAnAnswer(t *testing.T) {
+	more, last := 0, 0
+	for _, q := range somePosed(400) {
+		for _, s := range statesOf(q, 30) {
+			if s.Status != impl.SlvAnswer {
+				continue
+			}
+			checkAnswerStays(t, q.p, s, -1, 0, 1, 2, 5, 20)
+			if len(s.Choices) > 0 {
+				more++
+			} else {
+				last++
+			}
+		}
+	}
+	if more < 100 || last < 100 {
+		t.Errorf("only %d answers have choices, %d have none", more, last)
+	}
+}
+
+// TestRunLeavesAnAnswerAtTheEdges: by as few and as many steps as can be said; by more than may be done at once there is nothing of it.
+func TestRunLeavesAnAnswerAtTheEdges(t *testing.T) {
+	p, s := richProg(), answerState()
+	checkAnswerStays(t, p, s, math.MinInt, -1, 0, 1, 2, 100, impl.SlvFuel-1, impl.SlvFuel)
+	for _, fuel := range []int{impl.SlvFuel + 1, math.MaxInt} {
+		if got := impl.SlvRun(p, s, fuel); !isNothing(got) {
+			t.Errorf("by %d steps the answer is %v", fuel, got)
+		}
+	}
+}
+
 // TestRunStopsAtWhatComes: of many steps no more are done than lead to an answer, or to an end.
 func TestRunStopsAtWhatComes(t *testing.T) {
 	p := program("e(a)", "e(b)", "u if 1 < a")
 	s := impl.SlvRun(p, impl.SlvNew(read("e(X0)")), 100)
-	if s.Status != impl.SlvAnswer || impl.TrmText(s.Out) != "e(a)" {
+	if s.Status != impl.SlvAnswer || impl.TrmText(s.Out) != "e(a)" || len(s.Choices) != 1 {
 		t.Fatalf("%v", s)
 	}
-	if got := impl.SlvRun(p, s, 0); !sameValue(got, s) {
-		t.Errorf("behind no step it is %v", got)
-	}
-	s = impl.SlvRun(p, s, 100)
-	if s.Status != impl.SlvAnswer || impl.TrmText(s.Out) != "e(b)" {
+	checkAnswerStays(t, p, s, 0, 1, 2, 5, 100, impl.SlvFuel)
+	s = impl.SlvRun(p, impl.SlvStep(p, s), 100)
+	if s.Status != impl.SlvAnswer || impl.TrmText(s.Out) != "e(b)" || len(s.Choices) != 0 {
 		t.Fatalf("%v", s)
 	}
-	if got := impl.SlvRun(p, s, 100); !sameValue(got, state{Status: impl.SlvNone, Top: read("e(X0)")}) {
+	checkAnswerStays(t, p, s, 0, 1, 2, 5, 100, impl.SlvFuel)
+	if got := impl.SlvRun(p, impl.SlvStep(p, s), 100); !sameValue(got, state{Status: impl.SlvNone, Top: read("e(X0)")}) {
 		t.Errorf("at last it is %v", got)
 	}
 	if got := impl.SlvRun(p, impl.SlvNew(read("u")), 100); !sameValue(got, state{Status: impl.SlvWrong, Top: read("u")}) {
