@@ -18,6 +18,7 @@ func rowOrders() map[string][]binding {
 }
 
 func TestManyBindingsInARow(t *testing.T) {
+	t.Parallel()
 	first, last := places(variable(0)), places(variable(impl.TrmVars))
 	for how, s := range rowOrders() {
 		if !impl.SubOk(s) {
@@ -63,6 +64,7 @@ func checkRing(t *testing.T, what string, s []binding) {
 
 // TestDoublingBindings: what a few bindings stand for has more places than could ever be gone through.
 func TestDoublingBindings(t *testing.T) {
+	t.Parallel()
 	for _, n := range []int{30, 1000, 50000} {
 		s := doubling(n)
 		back := slices.Clone(s)

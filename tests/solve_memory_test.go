@@ -22,6 +22,7 @@ func checkSolvingMemory(t *testing.T, p prog, s state, top []cell) {
 
 // TestSolvingIsNewMemory: no answer shares memory with an argument, no two lists of one answer share any, and nothing is written into an argument.
 func TestSolvingIsNewMemory(t *testing.T) {
+	t.Parallel()
 	for _, q := range somePosed(60) {
 		mine, top := roomy(q.p), roomy(q.top)
 		all := statesOf(q, 20)
@@ -37,6 +38,7 @@ func TestSolvingIsNewMemory(t *testing.T) {
 
 // TestWrongSolvingIsNewMemory: what is not ok is not written to either.
 func TestWrongSolvingIsNewMemory(t *testing.T) {
+	t.Parallel()
 	for _, one := range harmful() {
 		s := richState()
 		one.turn(&s)

@@ -339,6 +339,7 @@ func turnList(r *rand.Rand, v reflect.Value) {
 
 // TestTurnedSolvingIsAsPlainlyTold holds solving with something turned in it against the plain reading.
 func TestTurnedSolvingIsAsPlainlyTold(t *testing.T) {
+	t.Parallel()
 	r := steady()
 	ok, wrong, lost := 0, 0, 0
 	for _, q := range append(somePosed(300), posed{richProg(), read("p(X0,X1)")}) {

@@ -64,6 +64,7 @@ func TestNoQuestionBeginsNothing(t *testing.T) {
 
 // TestSolvingIsAsPlainlyTold holds each step against the plain reading.
 func TestSolvingIsAsPlainlyTold(t *testing.T) {
+	t.Parallel()
 	states := 0
 	for _, q := range somePosed(1500) {
 		s := impl.SlvNew(q.top)

@@ -160,6 +160,7 @@ func TestEachShortText(t *testing.T) {
 
 // TestTurnedTexts: promise 9, of texts with one sign turned, taken away or put in.
 func TestTurnedTexts(t *testing.T) {
+	t.Parallel()
 	const signs = "azAX0159-+(,) @\x00\xff"
 	r := steady()
 	read := 0

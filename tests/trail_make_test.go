@@ -168,6 +168,7 @@ func answerTrail() trailState {
 
 // TestWalksSeeWhatTheChapterSpeaksOf: calls that are far, outcomes of each kind that are waited for, and several choices that are far at once.
 func TestWalksSeeWhatTheChapterSpeaksOf(t *testing.T) {
+	t.Parallel()
 	waits, deep, later, kinds, ended := 0, 0, 0, map[int]int{}, map[int]int{}
 	for _, q := range spreadPosed(600) {
 		for _, node := range farNodes() {

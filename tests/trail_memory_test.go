@@ -33,6 +33,7 @@ func checkTakenMemory(t *testing.T, p prog, node int, s trailState) {
 
 // TestTrailsAreNewMemory: no answer shares memory with an argument, no two lists of one answer share any, and nothing is written into an argument.
 func TestTrailsAreNewMemory(t *testing.T) {
+	t.Parallel()
 	waits := 0
 	for k, q := range spreadPosed(60) {
 		node := allNodes()[k%len(allNodes())]
@@ -60,6 +61,7 @@ func TestTrailsAreNewMemory(t *testing.T) {
 
 // TestWrongTrailsAreNewMemory: what is not ok is not written to either; and what is seen of it is new.
 func TestWrongTrailsAreNewMemory(t *testing.T) {
+	t.Parallel()
 	for _, one := range harmfulTrail() {
 		s := richTrail()
 		one.turn(&s)

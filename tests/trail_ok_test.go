@@ -305,6 +305,7 @@ func TestTrailOfAWrongProgram(t *testing.T) {
 
 // TestTurnedTrailsAreAsPlainlyTold holds solving at a node with something turned in it against the plain reading.
 func TestTurnedTrailsAreAsPlainlyTold(t *testing.T) {
+	t.Parallel()
 	r := steady()
 	ok, wrong, waits := 0, 0, 0
 	for _, q := range append(spreadPosed(250), posed{richFarProg(), read("p(X0,X1)")}) {

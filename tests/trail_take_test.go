@@ -48,6 +48,7 @@ func notWanted(want []cell, n int, o outcome) []struct {
 
 // TestJustWhatIsWaitedForIsTaken: promise 35, and what is waited for is one that may be asked, as promise 36 has it.
 func TestJustWhatIsWaitedForIsTaken(t *testing.T) {
+	t.Parallel()
 	waits, again := 0, 0
 	for _, q := range spreadPosed(250) {
 		for _, node := range farNodes() {
@@ -361,6 +362,7 @@ func TestNoneMoreGoesBack(t *testing.T) {
 
 // TestTakenBetween: what does not wait takes nothing.
 func TestTakenBetween(t *testing.T) {
+	t.Parallel()
 	for _, q := range spreadPosed(100) {
 		for _, node := range allNodes() {
 			for _, s := range trailsOf(q, node, 15) {

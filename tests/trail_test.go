@@ -54,6 +54,7 @@ func checkBothStep(t *testing.T, p prog, s trailState) trailState {
 
 // TestLettingGoIsToHaveKept: promise 3, step by step from the beginning.
 func TestLettingGoIsToHaveKept(t *testing.T) {
+	t.Parallel()
 	steps, back := 0, 0
 	for _, q := range append(spreadPosed(700), handPosed()...) {
 		s := impl.TrlNew(q.top)
@@ -109,6 +110,7 @@ func TestLettingGoOfTurnedSolving(t *testing.T) {
 
 // TestByEitherWayOutcomesAreTheSame: promise 76.
 func TestByEitherWayOutcomesAreTheSame(t *testing.T) {
+	t.Parallel()
 	several := 0
 	for _, q := range append(spreadPosed(400), somePosed(200)...) {
 		want, steps := impl.SlvOuts(q.p, q.top, 9, 60)
@@ -133,6 +135,7 @@ func TestByEitherWayOutcomesAreTheSame(t *testing.T) {
 
 // TestWhoIsToldHasTheSame: promise 4. What one machine tells in 250 steps is told at each node, that is told what it waits for.
 func TestWhoIsToldHasTheSame(t *testing.T) {
+	t.Parallel()
 	asked, several := 0, 0
 	for _, q := range spreadPosed(1200) {
 		want, _ := impl.SlvOuts(q.p, q.top, 9, 250)
@@ -179,6 +182,7 @@ func TestWhoIsToldByHand(t *testing.T) {
 
 // TestSolvingAtANodeStaysSolving: promise 26, of steps and of what is taken, at each node; and each answer is one of the question, as promise 29 has it.
 func TestSolvingAtANodeStaysSolving(t *testing.T) {
+	t.Parallel()
 	for _, q := range spreadPosed(400) {
 		for _, node := range allNodes() {
 			answers := 0
@@ -211,6 +215,7 @@ func TestSolvingAtANodeStaysSolving(t *testing.T) {
 
 // TestTrailsAreAsPlainlyTold holds each step, and all that is taken, against the plain reading.
 func TestTrailsAreAsPlainlyTold(t *testing.T) {
+	t.Parallel()
 	steps, takes := 0, 0
 	for _, q := range spreadPosed(500) {
 		for _, node := range allNodes() {
