@@ -303,6 +303,8 @@ func turnSome(r *rand.Rand, v reflect.Value) {
 		default:
 			v.SetInt(v.Int() + int64(1-2*r.IntN(2)))
 		}
+	case reflect.Bool:
+		v.SetBool(!v.Bool())
 	case reflect.String:
 		v.SetString([]string{"", "a", "b", "e", "p", "q", "B"}[r.IntN(7)])
 	case reflect.Struct:
